@@ -97,7 +97,7 @@ func TestSettled(t *testing.T) {
 			t.Fatal(e)
 		}
 		seed := uint64(88172645463325252)
-		for step := range 1500 {
+		for step := range 1200 {
 			seed ^= seed << 13
 			seed ^= seed >> 7
 			seed ^= seed << 17
@@ -105,12 +105,12 @@ func TestSettled(t *testing.T) {
 			if seed>>40%4 == 0 {
 				r[1+seed>>42%2] = api.Value{}
 			}
-			if seed>>50%10 < uint64(2+6*(step/500%2)) {
+			if seed>>50%10 < uint64(2+6*(step/400%2)) {
 				x = x.Without(r[:keys])
 			} else if x, e = x.With(r); e != api.OK {
 				t.Fatal(e)
 			}
-			if step%3 == 0 && !settled(x) {
+			if !settled(x) {
 				t.Fatalf("%d keys, step %d: not settled", keys, step)
 			}
 		}
